@@ -12,7 +12,7 @@ import (
 func wantLog(t *testing.T, what string, got impl.OpsOut, want impl.OpsOut) {
 	t.Helper()
 	if !slices.Equal(got.Ops, want.Ops) || got.Many != want.Many || got.Code != want.Code {
-		t.Errorf("%s: got %d ops %.200v, Many %d, code %d, want %d ops, Many %d, code %d",
+		t.Errorf("%s: got %d ops %v, Many %d, code %d, want %d ops, Many %d, code %d",
 			what, len(got.Ops), got.Ops, got.Many, got.Code, len(want.Ops), want.Many, want.Code)
 	}
 }

@@ -46,7 +46,7 @@ func wantChanges(t *testing.T, what string, was, now []impl.Row, want ...impl.Ch
 	t.Helper()
 	wasThen, nowThen := slices.Clone(was), slices.Clone(now)
 	if got := impl.Changes(was, now); !slices.Equal(got, want) {
-		t.Errorf("Changes, %s: got %.200v, want %.200v", what, got, want)
+		t.Errorf("Changes, %s: got %v, want %v", what, got, want)
 	}
 	if !slices.Equal(was, wasThen) || !slices.Equal(now, nowThen) {
 		t.Errorf("Changes, %s: the rows that are handed in are not as they were", what)

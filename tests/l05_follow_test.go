@@ -38,7 +38,7 @@ func wantFollowed(t *testing.T, what string, was []impl.Row, l []impl.Change, wa
 	t.Helper()
 	wasThen, lThen := slices.Clone(was), slices.Clone(l)
 	if got := impl.Follow(was, l); !slices.Equal(got, want) {
-		t.Errorf("Follow, %s: got %.200v, want %.200v", what, got, want)
+		t.Errorf("Follow, %s: got %v, want %v", what, got, want)
 	}
 	if !slices.Equal(was, wasThen) || !slices.Equal(l, lThen) {
 		t.Errorf("Follow, %s: what is handed in is not as it was", what)

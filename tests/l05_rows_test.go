@@ -44,7 +44,7 @@ func wantRowsOf(t *testing.T, what string, tree impl.Tree, kind int64, node int6
 	t.Helper()
 	was := copied(tree)
 	if got := impl.Rows(tree, impl.Query{Kind: kind, Node: node}); !slices.Equal(got, want) {
-		t.Errorf("Rows of the Kind %d and %d, %s: got %.200v, want %.200v", kind, node, what, got, want)
+		t.Errorf("Rows of the Kind %d and %d, %s: got %v, want %v", kind, node, what, got, want)
 	}
 	if !sameTree(tree, was) {
 		t.Errorf("Rows of the Kind %d and %d, %s: the tree that is handed in is not as it was", kind, node, what)

@@ -125,7 +125,7 @@ func sameLists(a, b [][]impl.Op) bool {
 func wantStillRight(t *testing.T, what string, was, now impl.Client) {
 	t.Helper()
 	if !impl.ClientRight(now) || !rightByHand(now) {
-		t.Errorf("%s: the client is not right any more: %.300v", what, now)
+		t.Errorf("%s: the client is not right any more: %v", what, now)
 	}
 	for _, o := range was.Log {
 		if !slices.Contains(now.Log, o) {
@@ -146,7 +146,7 @@ func wantTold(t *testing.T, what string, c impl.Client, l []impl.Op, call func(c
 	handedIn := wholes(c.Log, c.Out, l)
 	got := call(c, l)
 	if !sameClient(got.Client, want.Client) || got.Op != want.Op || got.Many != want.Many || got.Code != want.Code {
-		t.Errorf("%s: got %.400v, want %.400v", what, got, want)
+		t.Errorf("%s: got %v, want %v", what, got, want)
 	}
 	if got.Code == impl.OK {
 		wantStillRight(t, what, c, got.Client)

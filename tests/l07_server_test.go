@@ -98,7 +98,7 @@ func wantAnswer(t *testing.T, what string, s impl.Server, l []impl.Op, call func
 	was := handedOf(s, l)
 	got := call(s, l)
 	if !sameServer(got.Server, want.Server) || !slices.Equal(got.Ops, want.Ops) || got.Many != want.Many || got.Code != want.Code {
-		t.Errorf("%s: got %.400v, want %.400v", what, got, want)
+		t.Errorf("%s: got %v, want %v", what, got, want)
 	}
 	if !was.same(handedOf(s, l)) {
 		t.Errorf("%s: what is handed in is not as it was", what)
@@ -128,10 +128,10 @@ func wantUploaded(t *testing.T, what string, s impl.Server, replica, from int64,
 		return got
 	}
 	if !impl.ServerRight(got.Server) || !serverRightByHand(got.Server) {
-		t.Errorf("%s: the server is not right any more: %.300v", what, got.Server)
+		t.Errorf("%s: the server is not right any more: %v", what, got.Server)
 	}
 	if many := len(s.Ops); len(got.Server.Ops) < many || !slices.Equal(got.Server.Ops[:many], s.Ops) {
-		t.Errorf("%s: what was there is not there in order: %.300v", what, got.Server)
+		t.Errorf("%s: what was there is not there in order: %v", what, got.Server)
 	}
 	wantAnswer(t, what+", once more", got.Server, l, call, impl.ServerOut{Server: got.Server, Many: got.Many})
 	return got

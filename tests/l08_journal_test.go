@@ -187,13 +187,13 @@ func wantState(t *testing.T, what string, replica int64, log string, want impl.S
 	t.Helper()
 	got := impl.ClientOf(replica, log)
 	if !sameState(got, want) {
-		t.Errorf("ClientOf, %s, %d bytes of %d: got %.300v, want %.300v", what, len(log), replica, got, want)
+		t.Errorf("ClientOf, %s, %d bytes of %d: got %v, want %v", what, len(log), replica, got, want)
 	}
 	if byHand := stateByHand(replica, log); !sameState(byHand, want) {
-		t.Errorf("%s, %d bytes of %d: by hand %.300v, want %.300v", what, len(log), replica, byHand, want)
+		t.Errorf("%s, %d bytes of %d: by hand %v, want %v", what, len(log), replica, byHand, want)
 	}
 	if got.Code == impl.OK && !impl.ClientRight(got.Client) {
-		t.Errorf("ClientOf, %s: a client that is not right: %.300v", what, got.Client)
+		t.Errorf("ClientOf, %s: a client that is not right: %v", what, got.Client)
 	}
 	l, out := got.Client.Log, slices.Clone(got.Client.Out)
 	clear(l[:cap(l)])

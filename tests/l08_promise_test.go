@@ -58,7 +58,7 @@ func (d *diary) keep(t *testing.T, told impl.ClientOut, record string, now impl.
 	d.journal = now
 	state := impl.ClientOf(d.client.Replica, now.Log)
 	if !sameState(state, impl.StateOut{Client: d.client, At: int64(len(now.Log))}) {
-		t.Errorf("%s: ClientOf tells %.300v, want %.300v", what, state, d.client)
+		t.Errorf("%s: ClientOf tells %v, want %v", what, state, d.client)
 	}
 }
 
@@ -151,7 +151,7 @@ func (d *diary) crash(t *testing.T) {
 	}
 	state := impl.ClientOf(d.client.Replica, found.Log)
 	if !sameState(state, impl.StateOut{Client: d.was[at], At: int64(len(found.Log))}) {
-		t.Fatalf("step %d: found is %.300v, there was %.300v", d.step, state, d.was[at])
+		t.Fatalf("step %d: found is %v, there was %v", d.step, state, d.was[at])
 	}
 	d.crashes++
 	d.journal, d.client, d.ends, d.was = found, state.Client, d.ends[:at+1], d.was[:at+1]
